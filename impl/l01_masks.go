@@ -103,6 +103,34 @@ func (r binaryRelation) reflexive() binaryRelation {
 	return closure
 }
 
+// union returns the relation of all pairs of r or other, which has as many elements.
+func (r binaryRelation) union(other binaryRelation) binaryRelation {
+	union := make(binaryRelation, len(r))
+	for i, related := range r {
+		union[i] = related | other[i]
+	}
+	return union
+}
+
+// common returns the relation of all pairs of both r and other, which has as many elements.
+func (r binaryRelation) common(other binaryRelation) binaryRelation {
+	common := make(binaryRelation, len(r))
+	for i, related := range r {
+		common[i] = related & other[i]
+	}
+	return common
+}
+
+// isWithin tells whether other, which has as many elements, has all pairs of r.
+func (r binaryRelation) isWithin(other binaryRelation) bool {
+	for i, related := range r {
+		if related&^other[i] != 0 {
+			return false
+		}
+	}
+	return true
+}
+
 func isSize(n int64) bool { return n >= 0 && n <= MaxBits }
 
 // isMaskWithin tells whether mask is a mask of n elements, where n is in 0..MaxBits.
