@@ -486,7 +486,7 @@ func TestClosuresOfFramesAreLeast(t *testing.T) {
 	}
 }
 
-// The same for frames with 4 worlds: a closure is what all frames with the property have in common
+// The same for some frames with 4 worlds: a closure is what all frames with the property have in common
 // that have all arrows of the frame.
 func TestClosuresOfFourWorldsAreLeast(t *testing.T) {
 	for _, flag := range closingFlags {
@@ -867,12 +867,12 @@ func TestLeastFrame(t *testing.T) {
 	}
 }
 
-// P5, third part, by all frames with at most 3 worlds.
+// P5, third part, by all pairs of frames with at most 3 worlds.
 func TestFramesAreIsomorphicExactlyIfTheyHaveOneLeastForm(t *testing.T) {
 	for worlds := range 4 {
 		relations := allRelations(worlds)
 		for i, r := range relations {
-			for _, other := range relations[i:min(i+100, len(relations))] {
+			for _, other := range relations[i:] {
 				expectOneForm(t, frameWith(r...), frameWith(other...))
 			}
 		}
