@@ -138,6 +138,9 @@ func isMaskWithin(n int64, mask int64) bool { return mask >= 0 && mask < 1<<n }
 
 func hasMember(mask int64, i int) bool { return mask>>i&1 == 1 }
 
+// leastMember returns the least member of a mask that has one.
+func leastMember(mask int64) int { return bits.TrailingZeros64(uint64(mask)) }
+
 func countBits(mask int64) int64 { return int64(bits.OnesCount64(uint64(mask))) }
 
 // checkMask returns the error of a mask of n elements that comes first, or ErrNone.
