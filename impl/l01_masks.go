@@ -47,6 +47,17 @@ func (r binaryRelation) image(mask int64) int64 {
 	return image
 }
 
+// preimage returns the elements that are related to a member of mask.
+func (r binaryRelation) preimage(mask int64) int64 {
+	var preimage int64
+	for i, related := range r {
+		if related&mask != 0 {
+			preimage |= 1 << i
+		}
+	}
+	return preimage
+}
+
 // box returns the elements that are related to members of mask only.
 func (r binaryRelation) box(mask int64) int64 {
 	var box int64
@@ -68,17 +79,7 @@ func (r binaryRelation) then(next binaryRelation) binaryRelation {
 	return composed
 }
 
-func (r binaryRelation) inverse() binaryRelation {
-	inverse := make(binaryRelation, len(r))
-	for i, related := range r {
-		for j := range inverse {
-			if hasMember(related, j) {
-				inverse[j] |= 1 << i
-			}
-		}
-	}
-	return inverse
-}
+func (r binaryRelation) inverse() binaryRelation { return inverseOf(r, int64(len(r))) }
 
 func (r binaryRelation) transitive() binaryRelation {
 	closure := make(binaryRelation, len(r))
@@ -129,6 +130,20 @@ func (r binaryRelation) isWithin(other binaryRelation) bool {
 		}
 	}
 	return true
+}
+
+// inverseOf returns, for each of n elements, the mask of the indices of the masks in a list of which
+// it is a member.
+func inverseOf(masks []int64, n int64) []int64 {
+	inverse := make([]int64, n)
+	for i, mask := range masks {
+		for j := range inverse {
+			if hasMember(mask, j) {
+				inverse[j] |= 1 << i
+			}
+		}
+	}
+	return inverse
 }
 
 func isSize(n int64) bool { return n >= 0 && n <= MaxBits }
